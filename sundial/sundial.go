@@ -45,14 +45,6 @@ func (d *Database) Config() api.Config {
 	return c
 }
 
-// Update writes points (P4 to P6).
-func (d *Database) Update(now int, points ...api.Point) (api.Errno, int) { return api.OK, 0 }
-
-// Fetch reads points (P7).
-func (d *Database) Fetch(now int, from int, until int) (api.Series, api.Errno) {
-	return api.Series{}, api.OK
-}
-
 // Save writes a database as bytes (P8).
 func (d *Database) Save() []byte { return nil }
 
