@@ -187,9 +187,12 @@ func anyPoint(r *rand.Rand, now, reach int) api.Point {
 func TestUpdateAndFetchAgainstTheModel(t *testing.T) {
 	r := rand.New(rand.NewPCG(7, 95))
 	for range 600 {
-		c := anyConfig(r)
-		d, _ := Create(c)
-		m := newModel(c)
+		d, m := filled(r)
+		c := d.Config()
+		if r.IntN(2) == 0 {
+			d, _ = Create(c)
+			m = newModel(c)
+		}
 		last := m.shapes[len(m.shapes)-1]
 		reach := last.Step * last.Slots
 		now := r.IntN(2 * reach)
@@ -197,6 +200,9 @@ func TestUpdateAndFetchAgainstTheModel(t *testing.T) {
 			now = api.MaxStamp - r.IntN(2*reach)
 		}
 		for range 40 {
+			if r.IntN(4) == 0 {
+				d = again(t, d, m)
+			}
 			now = now + r.IntN(reach) - reach/3
 			var points []api.Point
 			for range r.IntN(8) {

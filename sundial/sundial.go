@@ -45,12 +45,6 @@ func (d *Database) Config() api.Config {
 	return c
 }
 
-// Save writes a database as bytes (P8).
-func (d *Database) Save() []byte { return nil }
-
-// Load reads bytes (P9).
-func Load(b []byte) (*Database, api.Errno) { return nil, api.OK }
-
 // Resize makes a database of another configuration with the same points (P10).
 func (d *Database) Resize(now int, c api.Config) (*Database, api.Errno) { return nil, api.OK }
 
