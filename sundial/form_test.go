@@ -106,6 +106,9 @@ func again(t *testing.T, d *Database, m *model) *Database {
 	if !bytes.Equal(b, m.bytes()) || e != api.OK || o.Config() != d.Config() || !sameSlots(d, m) || !sameSlots(o, m) {
 		t.Fatalf("%v: Save() = %q, want %q; Load = %v, %d", d.archives, b, m.bytes(), o, e)
 	}
+	if l, e := d.Diff(o); len(l) != 0 || e != api.OK {
+		t.Fatalf("%v and %v: Diff = %v, %d, want nothing", d.archives, o.archives, l, e)
+	}
 	return o
 }
 

@@ -251,9 +251,11 @@ func TestLoadWhatIsSaved(t *testing.T) {
 		if o.Config() != d.Config() {
 			t.Fatalf("at %d: Config() = %v, want %v", now, o.Config(), d.Config())
 		}
+		differ(t, d, o)
 		write(t, d, now, now, now*31%100-50, now-now/3%300, now*17%100-50)
 		write(t, o, now, now, now*31%100-50, now-now/3%300, now*17%100-50)
 		saved(t, o, string(d.Save()))
+		differ(t, d, o)
 		s, _ := d.Fetch(now, 0, now)
 		got, e := o.Fetch(now, 0, now)
 		if e != api.OK || got.Archive != s.Archive || !slices.Equal(got.Points, s.Points) {

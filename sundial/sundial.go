@@ -44,9 +44,3 @@ func (d *Database) Config() api.Config {
 	}
 	return c
 }
-
-// Resize makes a database of another configuration with the same points (P10).
-func (d *Database) Resize(now int, c api.Config) (*Database, api.Errno) { return nil, api.OK }
-
-// Diff tells in which slots two databases differ (P11).
-func (d *Database) Diff(o *Database) ([]int, api.Errno) { return nil, api.OK }
